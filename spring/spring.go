@@ -1,0 +1,89 @@
+// Package spring: random bytes, and what they are made of: see DOC.md.
+package spring
+
+import (
+	"spring/api"
+	"spring/digest"
+)
+
+// Sum tells the sum of some bytes (P3).
+func Sum(data string) (string, api.Errno) {
+	if len(data) > api.MaxData {
+		return "", api.ErrArg
+	}
+	sum := digest.Sum([]byte(data))
+	return string(sum[:]), api.OK
+}
+
+// Mac tells the sum of some bytes with a key (P3).
+func Mac(key string, data string) (string, api.Errno) {
+	if len(key) > api.MaxData || len(data) > api.MaxData {
+		return "", api.ErrArg
+	}
+	mac := digest.Mac([]byte(key), []byte(data))
+	return string(mac[:]), api.OK
+}
+
+// Summer sums up bytes that come piece by piece.
+type Summer struct {
+	state digest.State
+}
+
+// NewSummer makes one (P4).
+func NewSummer() *Summer { return &Summer{state: digest.New()} }
+
+// Add takes a piece (P4).
+func (s *Summer) Add(data []byte) api.Errno {
+	if len(data) > api.MaxData {
+		return api.ErrArg
+	}
+	s.state.Add(data)
+	return api.OK
+}
+
+// Sum tells the sum of all pieces (P4).
+func (s *Summer) Sum() string {
+	sum := s.state.Sum()
+	return string(sum[:])
+}
+
+// Source is a generator.
+type Source struct{}
+
+// New makes a generator (P5).
+func New(kind int, entropy string, nonce string, name string) (*Source, api.Errno) {
+	return nil, api.OK
+}
+
+// Reseed gives a generator new entropy (P6).
+func (s *Source) Reseed(entropy string, extra string) api.Errno { return api.OK }
+
+// Read draws bytes (P7).
+func (s *Source) Read(n int, extra string) ([]byte, api.Errno) { return nil, api.OK }
+
+// Guard keeps watch over samples.
+type Guard struct{}
+
+// NewGuard makes one (P8).
+func NewGuard(w api.Watch) (*Guard, api.Errno) { return nil, api.OK }
+
+// Feed brings samples (P8).
+func (g *Guard) Feed(samples []byte) (int, api.Errno) { return 0, api.OK }
+
+// Reset lets a guard begin anew (P8).
+func (g *Guard) Reset() {}
+
+// Well is a generator that is fed by samples.
+type Well struct{}
+
+// Open makes one (P9).
+func Open(kind int, w api.Watch, name string) (*Well, api.Errno) { return nil, api.OK }
+
+// Feed brings samples (P9).
+func (w *Well) Feed(samples []byte) (int, api.Errno) { return 0, api.OK }
+
+// Draw draws bytes (P10).
+func (w *Well) Draw(n int, extra string) ([]byte, api.Errno) { return nil, api.OK }
+
+// Samples tells how many are kept (P9).
+func (w *Well) Samples() int { return 0 }
