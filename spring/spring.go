@@ -4,6 +4,7 @@ package spring
 import (
 	"spring/api"
 	"spring/digest"
+	"spring/generate"
 )
 
 // Sum tells the sum of some bytes (P3).
@@ -48,18 +49,51 @@ func (s *Summer) Sum() string {
 }
 
 // Source is a generator.
-type Source struct{}
+type Source struct {
+	generator generate.Generator
+	rounds    uint64
+}
 
 // New makes a generator (P5).
 func New(kind int, entropy string, nonce string, name string) (*Source, api.Errno) {
-	return nil, api.OK
+	generator := generate.Unseeded(generate.Kind(kind))
+	if generator == nil {
+		return nil, api.ErrKind
+	}
+	if !maySeed(entropy) || len(nonce) > api.MaxExtra || len(name) > api.MaxExtra {
+		return nil, api.ErrArg
+	}
+	generator.Seed([]byte(entropy + nonce + name))
+	return &Source{generator: generator, rounds: 1}, api.OK
+}
+
+// maySeed tells whether entropy is as long as a seeding wants it.
+func maySeed(entropy string) bool {
+	return api.MinEntropy <= len(entropy) && len(entropy) <= api.MaxEntropy
 }
 
 // Reseed gives a generator new entropy (P6).
-func (s *Source) Reseed(entropy string, extra string) api.Errno { return api.OK }
+func (s *Source) Reseed(entropy string, extra string) api.Errno {
+	if !maySeed(entropy) || len(extra) > api.MaxExtra {
+		return api.ErrArg
+	}
+	s.generator.Reseed([]byte(entropy + extra))
+	s.rounds = 1
+	return api.OK
+}
 
 // Read draws bytes (P7).
-func (s *Source) Read(n int, extra string) ([]byte, api.Errno) { return nil, api.OK }
+func (s *Source) Read(n int, extra string) ([]byte, api.Errno) {
+	if n < 0 || n > api.MaxRead || len(extra) > api.MaxExtra {
+		return nil, api.ErrArg
+	}
+	if s.rounds > api.MaxReads {
+		return nil, api.ErrReseed
+	}
+	out := s.generator.Read(n, []byte(extra), s.rounds)
+	s.rounds++
+	return out, api.OK
+}
 
 // Guard keeps watch over samples.
 type Guard struct{}
