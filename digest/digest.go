@@ -19,7 +19,7 @@ type State struct {
 
 // New makes a sum that has no bytes.
 func New() State {
-	return State{words: startWords}
+	return State{words: startTable()}
 }
 
 // Add puts bytes behind those that the sum has.
@@ -63,8 +63,9 @@ func Sum(data []byte) [api.Length]byte {
 func mix(words [8]uint32, block [blockSize]byte) [8]uint32 {
 	a, b, c, d := words[0], words[1], words[2], words[3]
 	e, f, g, h := words[4], words[5], words[6], words[7]
+	k := roundTable()
 	for t, w := range spread(block) {
-		t1 := h + (turn(e, 6) ^ turn(e, 11) ^ turn(e, 25)) + (e&f | ^e&g) + roundWords[t] + w
+		t1 := h + (turn(e, 6) ^ turn(e, 11) ^ turn(e, 25)) + (e&f | ^e&g) + k[t] + w
 		t2 := (turn(a, 2) ^ turn(a, 13) ^ turn(a, 22)) + (a&b | a&c | b&c)
 		h, g, f, e, d, c, b, a = g, f, e, d+t1, c, b, a, t1+t2
 	}

@@ -47,6 +47,50 @@ func TestWordsArePublishedOnes(t *testing.T) {
 	}
 }
 
+// The words that the sums take are those that init worked out: all of H and all of K.
+func TestTablesAreWordsOutOfPrimes(t *testing.T) {
+	start, round := FromPrimes()
+	if start != startWords || round != roundWords {
+		t.Errorf("FromPrimes: %08x, %08x, want %08x, %08x", start, round, startWords, roundWords)
+	}
+	for i, word := range startTable() {
+		if word != start[i] {
+			t.Errorf("H, word %d: %08x in the table, %08x out of the primes", i, word, start[i])
+		}
+	}
+	for i, word := range roundTable() {
+		if word != round[i] {
+			t.Errorf("K, word %d: %08x in the table, %08x out of the primes", i, word, round[i])
+		}
+	}
+}
+
+// The sums take the tables: with the variables emptied they answer as ever.
+func TestSumsDoNotReadVariables(t *testing.T) {
+	start, round := FromPrimes()
+	defer func() { startWords, roundWords = start, round }()
+	startWords, roundWords = [8]uint32{}, [64]uint32{}
+	data := pattern(100)
+	if got, want := Sum(data), sha256.Sum256(data); got != want {
+		t.Errorf("Sum: %x, want %x", got, want)
+	}
+	if got, want := Mac(data, data), wantMac(data, data); got != want {
+		t.Errorf("Mac: %x, want %x", got, want)
+	}
+}
+
+// FromPrimes reads the variables, not the tables once more.
+func TestFromPrimesReadsVariables(t *testing.T) {
+	start, round := FromPrimes()
+	defer func() { startWords, roundWords = start, round }()
+	startWords[7]++
+	roundWords[63]++
+	gotStart, gotRound := FromPrimes()
+	if gotStart != startWords || gotRound != roundWords {
+		t.Errorf("FromPrimes: %08x, %08x, want %08x, %08x", gotStart, gotRound, startWords, roundWords)
+	}
+}
+
 func TestFirstPrimes(t *testing.T) {
 	if got := firstPrimes(8); !slices.Equal(got, []int64{2, 3, 5, 7, 11, 13, 17, 19}) {
 		t.Errorf("the first eight primes: %d", got)
