@@ -5,6 +5,7 @@ import (
 	"spring/api"
 	"spring/digest"
 	"spring/generate"
+	"spring/watch"
 )
 
 // Sum tells the sum of some bytes (P3).
@@ -96,16 +97,56 @@ func (s *Source) Read(n int, extra string) ([]byte, api.Errno) {
 }
 
 // Guard keeps watch over samples.
-type Guard struct{}
+type Guard struct {
+	limits api.Watch
+	state  watch.State
+	broken bool
+}
 
 // NewGuard makes one (P8).
-func NewGuard(w api.Watch) (*Guard, api.Errno) { return nil, api.OK }
+func NewGuard(w api.Watch) (*Guard, api.Errno) {
+	if !mayWatch(w) {
+		return nil, api.ErrArg
+	}
+	return &Guard{limits: w}, api.OK
+}
+
+// mayWatch tells whether samples may be held to these limits.
+func mayWatch(w api.Watch) bool {
+	return 2 <= w.Stuck && w.Stuck <= api.MaxWindow &&
+		2 <= w.Window && w.Window <= api.MaxWindow &&
+		2 <= w.Skew && w.Skew <= w.Window
+}
 
 // Feed brings samples (P8).
-func (g *Guard) Feed(samples []byte) (int, api.Errno) { return 0, api.OK }
+func (g *Guard) Feed(samples []byte) (int, api.Errno) {
+	if g.broken {
+		return 0, api.ErrDead
+	}
+	if len(samples) > api.MaxSamples {
+		return 0, api.ErrArg
+	}
+	fault := g.state.Take(samples, g.limits)
+	if fault == nil {
+		return len(samples), api.OK
+	}
+	*g = Guard{limits: g.limits, broken: true}
+	return fault.Ahead(), faultNumber(fault)
+}
+
+// faultNumber tells by which error callers learn of a fault.
+func faultNumber(fault watch.Fault) api.Errno {
+	switch fault.(type) {
+	case watch.Stuck:
+		return api.ErrStuck
+	case watch.Skew:
+		return api.ErrSkew
+	}
+	return api.OK
+}
 
 // Reset lets a guard begin anew (P8).
-func (g *Guard) Reset() {}
+func (g *Guard) Reset() { *g = Guard{limits: g.limits} }
 
 // Well is a generator that is fed by samples.
 type Well struct{}
