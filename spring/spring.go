@@ -2,6 +2,8 @@
 package spring
 
 import (
+	"slices"
+
 	"spring/api"
 	"spring/digest"
 	"spring/generate"
@@ -85,16 +87,24 @@ func (s *Source) Reseed(entropy string, extra string) api.Errno {
 
 // Read draws bytes (P7).
 func (s *Source) Read(n int, extra string) ([]byte, api.Errno) {
-	if n < 0 || n > api.MaxRead || len(extra) > api.MaxExtra {
+	if !mayRead(n, extra) {
 		return nil, api.ErrArg
 	}
-	if s.rounds > api.MaxReads {
+	if s.spent() {
 		return nil, api.ErrReseed
 	}
 	out := s.generator.Read(n, []byte(extra), s.rounds)
 	s.rounds++
 	return out, api.OK
 }
+
+// mayRead tells whether a read may be asked for so.
+func mayRead(n int, extra string) bool {
+	return 0 <= n && n <= api.MaxRead && len(extra) <= api.MaxExtra
+}
+
+// spent tells whether a generator wants new entropy.
+func (s *Source) spent() bool { return s.rounds > api.MaxReads }
 
 // Guard keeps watch over samples.
 type Guard struct {
@@ -149,16 +159,72 @@ func faultNumber(fault watch.Fault) api.Errno {
 func (g *Guard) Reset() { *g = Guard{limits: g.limits} }
 
 // Well is a generator that is fed by samples.
-type Well struct{}
+type Well struct {
+	kind    int
+	name    string
+	guard   Guard
+	samples []byte  // MaxSamples of them at most
+	source  *Source // nil until there were samples enough
+}
 
 // Open makes one (P9).
-func Open(kind int, w api.Watch, name string) (*Well, api.Errno) { return nil, api.OK }
+func Open(kind int, w api.Watch, name string) (*Well, api.Errno) {
+	if generate.Unseeded(generate.Kind(kind)) == nil {
+		return nil, api.ErrKind
+	}
+	if !mayWatch(w) || len(name) > api.MaxExtra {
+		return nil, api.ErrArg
+	}
+	return &Well{kind: kind, name: name, guard: Guard{limits: w}}, api.OK
+}
 
 // Feed brings samples (P9).
-func (w *Well) Feed(samples []byte) (int, api.Errno) { return 0, api.OK }
+func (w *Well) Feed(samples []byte) (int, api.Errno) {
+	number, e := w.guard.Feed(samples)
+	if e == api.OK {
+		w.keep(samples)
+	}
+	if w.guard.broken {
+		w.samples = nil
+	}
+	return number, e
+}
+
+// keep puts samples behind those that are kept; if they are too many then, the oldest go.
+func (w *Well) keep(samples []byte) {
+	w.samples = append(w.samples, samples...)
+	excess := max(0, len(w.samples)-api.MaxSamples)
+	w.samples = slices.Delete(w.samples, 0, excess)
+}
 
 // Draw draws bytes (P10).
-func (w *Well) Draw(n int, extra string) ([]byte, api.Errno) { return nil, api.OK }
+func (w *Well) Draw(n int, extra string) ([]byte, api.Errno) {
+	if !mayRead(n, extra) {
+		return nil, api.ErrArg
+	}
+	if w.guard.broken {
+		return nil, api.ErrDead
+	}
+	if w.source == nil || w.source.spent() {
+		if len(w.samples) < api.MinSamples {
+			return nil, api.ErrLittle
+		}
+		w.seed()
+	}
+	return w.source.Read(n, extra)
+}
+
+// seed makes entropy of the samples. None of what it calls can refuse: kind and name were looked at by Open, and a sum is as long as entropy may be.
+func (w *Well) seed() {
+	sum := digest.Sum(w.samples)
+	entropy := string(sum[:])
+	w.samples = nil
+	if w.source == nil {
+		w.source, _ = New(w.kind, entropy, "", w.name)
+		return
+	}
+	w.source.Reseed(entropy, "")
+}
 
 // Samples tells how many are kept (P9).
-func (w *Well) Samples() int { return 0 }
+func (w *Well) Samples() int { return len(w.samples) }
